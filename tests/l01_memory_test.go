@@ -106,11 +106,18 @@ func TestSeriesAreNeitherWrittenNorShared(t *testing.T) {
 		{mixedSeries(3, 3, 2, 4), mixedSeries(3, 3, 3, 7)},
 		{mixedSeries(1, 5, 2, 4), mixedSeries(1, 5, 2, 4)},
 	}
+	checkMemory(t, seriesFunctions(), pairs)
+}
+
+// checkMemory calls functions with pairs of series, and with what is no series, and looks for what
+// they write and share.
+func checkMemory(t *testing.T, functions []seriesFunction, pairs [][2]impl.Series) {
+	t.Helper()
 	for _, bad := range notSeries() {
 		pairs = append(pairs, [2]impl.Series{bad, mixedSeries(2, 3, 3, 4)})
 	}
 	for _, pair := range pairs {
-		for _, f := range seriesFunctions() {
+		for _, f := range functions {
 			x, wholeX := withSpare(pair[0])
 			y, wholeY := withSpare(pair[1])
 			beforeX, beforeY := slices.Clone(wholeX), slices.Clone(wholeY)
