@@ -36,30 +36,44 @@ var pairFunctions = map[string]func(x impl.Series, y impl.Series) (impl.Series, 
 	"CommutatorOf":   impl.CommutatorOf,
 }
 
-func TestPairErrors(t *testing.T) {
+// unlikePairs are series that are not alike. The products of most would not fit.
+func unlikePairs(t *testing.T) [][2]impl.Series {
+	const values = "1000000000/1*+1000000000/1*0"
+	large := seriesOf(t, 2, 2, values)
+	var pairs [][2]impl.Series
+	for _, other := range []impl.Series{
+		seriesOf(t, 1, 2, values), seriesOf(t, 3, 2, values), seriesOf(t, 2, 1, values), seriesOf(t, 2, 3, values),
+		seriesOf(t, 3, 3, "0"), seriesOf(t, 2, 5, "0"),
+	} {
+		pairs = append(pairs, [2]impl.Series{large, other}, [2]impl.Series{other, large})
+	}
+	return pairs
+}
+
+// checkPairErrors calls a function of two series that are alike with what it refuses.
+func checkPairErrors(t *testing.T, name string, do func(x impl.Series, y impl.Series) (impl.Series, int64)) {
+	t.Helper()
 	large := seriesOf(t, 2, 2, "1000000000/1*+1000000000/1*0")
+	for what, bad := range notSeries() {
+		for _, other := range []impl.Series{large, seriesOf(t, 1, 5, "0"), {}, bad} {
+			z, code := do(bad, other)
+			checkSeriesError(t, name+", first, "+what, z, code, impl.ErrInvalid)
+			z, code = do(other, bad)
+			checkSeriesError(t, name+", second, "+what, z, code, impl.ErrInvalid)
+		}
+	}
+	// Series that are not alike are refused ahead of values that do not fit.
+	for _, pair := range unlikePairs(t) {
+		z, code := do(pair[0], pair[1])
+		checkSeriesError(t, name, z, code, impl.ErrRange)
+	}
+	z, code := do(large, large)
+	checkSeriesError(t, name, z, code, impl.ErrLimit)
+}
+
+func TestPairErrors(t *testing.T) {
 	for name, do := range pairFunctions {
-		for what, bad := range notSeries() {
-			for _, other := range []impl.Series{large, seriesOf(t, 1, 5, "0"), {}, bad} {
-				z, code := do(bad, other)
-				checkSeriesError(t, name+", first, "+what, z, code, impl.ErrInvalid)
-				z, code = do(other, bad)
-				checkSeriesError(t, name+", second, "+what, z, code, impl.ErrInvalid)
-			}
-		}
-		// Series that are not alike are refused ahead of values that do not fit.
-		for _, other := range []impl.Series{
-			seriesOf(t, 1, 2, "1000000000/1*"), seriesOf(t, 3, 2, "1000000000/1*"),
-			seriesOf(t, 2, 1, "1000000000/1*"), seriesOf(t, 2, 3, "1000000000/1*"),
-			seriesOf(t, 3, 3, "0"), seriesOf(t, 2, 5, "0"),
-		} {
-			z, code := do(large, other)
-			checkSeriesError(t, name, z, code, impl.ErrRange)
-			z, code = do(other, large)
-			checkSeriesError(t, name, z, code, impl.ErrRange)
-		}
-		z, code := do(large, large)
-		checkSeriesError(t, name, z, code, impl.ErrLimit)
+		checkPairErrors(t, name, do)
 	}
 }
 

@@ -54,9 +54,11 @@ func TestProductsAreNeitherWrittenNorShared(t *testing.T) {
 	checkMemory(t, productFunctions(), productPairs(t))
 }
 
-func TestProductsDoNotDependOnCallsBefore(t *testing.T) {
-	for _, pair := range productPairs(t) {
-		for _, f := range productFunctions() {
+// checkCallsBefore calls functions with pairs of series again, after their results are changed.
+func checkCallsBefore(t *testing.T, functions []seriesFunction, pairs [][2]impl.Series) {
+	t.Helper()
+	for _, pair := range pairs {
+		for _, f := range functions {
 			x, y := pair[0], pair[1]
 			first := f.call(x, y)
 			want := slices.Clone(first.Terms)
@@ -69,6 +71,10 @@ func TestProductsDoNotDependOnCallsBefore(t *testing.T) {
 			}
 		}
 	}
+}
+
+func TestProductsDoNotDependOnCallsBefore(t *testing.T) {
+	checkCallsBefore(t, productFunctions(), productPairs(t))
 	first, _ := impl.UnitSeries(2, 2)
 	first.Terms[0] = spareTerm
 	second, code := impl.UnitSeries(2, 2)
