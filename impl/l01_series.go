@@ -379,13 +379,19 @@ func areAlike(x Series, y Series) bool {
 }
 
 // newSeries returns a series with copies of terms. Every series of a result is made here, so that
-// none shares memory with an argument, not even that of a text that a word was cut from.
+// none shares memory with an argument.
 func newSeries(d int64, n int64, terms []Term) Series {
+	return Series{Letters: d, Level: n, Terms: newTerms(terms)}
+}
+
+// newTerms returns copies of terms, which do not even share the memory of a text that a word was cut
+// from.
+func newTerms(terms []Term) []Term {
 	list := make([]Term, len(terms))
 	for i, t := range terms {
 		list[i] = Term{Word: strings.Clone(t.Word), Value: t.Value}
 	}
-	return Series{Letters: d, Level: n, Terms: list}
+	return list
 }
 
 // findTerm returns the index of the term with a word, or that at which it would stand, and whether
