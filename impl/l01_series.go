@@ -349,11 +349,13 @@ func countWords(d int64) int64 {
 
 // isWord reports whether w is a word of at most n letters for d letters.
 func isWord(d int64, n int64, w string) bool {
-	if int64(len(w)) > n {
-		return false
-	}
-	for i := range len(w) {
-		if w[i] < '0' || int64(w[i]-'0') >= d {
+	return int64(len(w)) <= n && areLetters(d, w)
+}
+
+// areLetters reports whether a text has none but d letters.
+func areLetters(d int64, text string) bool {
+	for i := range len(text) {
+		if text[i] < '0' || int64(text[i]-'0') >= d {
 			return false
 		}
 	}

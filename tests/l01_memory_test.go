@@ -22,7 +22,7 @@ func withSpare(x impl.Series) (impl.Series, []impl.Term) {
 }
 
 // shareMemory reports whether two lists have a place in common, spare capacity included.
-func shareMemory(a []impl.Term, b []impl.Term) bool {
+func shareMemory[E any](a []E, b []E) bool {
 	a, b = a[:cap(a)], b[:cap(b)]
 	for i := range a {
 		for k := range b {

@@ -12,57 +12,40 @@ const spareNumber = -77
 
 // spacious returns a copy of a path with spare capacity behind it and behind each step.
 func spacious(p path) path {
-	whole := make(path, 0, len(p)+4)
-	for _, step := range p {
-		numbers := append(slices.Clone(step), spareNumber, spareNumber, spareNumber)
-		whole = append(whole, numbers[:len(step)])
-	}
-	for range 4 {
-		whole = append(whole, []int64{spareNumber})
-	}
-	return whole[:len(p)]
+	return spaciousRows(p, spareNumber)
 }
 
-// wholeOf returns a copy of a path with what stands in the spare capacities.
-func wholeOf(p path) path {
-	var whole path
-	for _, step := range p[:cap(p)] {
-		whole = append(whole, slices.Clone(step[:cap(step)]))
+// spaciousRows returns a copy of rows with spare capacity, in which spare stands, behind them and behind
+// each one.
+func spaciousRows[E any](rows [][]E, spare E) [][]E {
+	whole := make([][]E, 0, len(rows)+4)
+	for _, row := range rows {
+		list := append(slices.Clone(row), spare, spare, spare)
+		whole = append(whole, list[:len(row)])
+	}
+	for range 4 {
+		whole = append(whole, []E{spare})
+	}
+	return whole[:len(rows)]
+}
+
+// wholeOf returns a copy of a path, or of other rows, with what stands in the spare capacities.
+func wholeOf[E any](rows [][]E) [][]E {
+	var whole [][]E
+	for _, row := range rows[:cap(rows)] {
+		whole = append(whole, slices.Clone(row[:cap(row)]))
 	}
 	return whole
 }
 
-// shareSteps reports whether two lists of steps have a place in common.
-func shareSteps(a path, b path) bool {
-	a, b = a[:cap(a)], b[:cap(b)]
-	for i := range a {
-		for k := range b {
-			if &a[i] == &b[k] {
-				return true
-			}
-		}
+// shareRows reports whether two lists of rows, or any rows of both, have a place in common.
+func shareRows[E any](a [][]E, b [][]E) bool {
+	if shareMemory(a, b) {
+		return true
 	}
-	return false
-}
-
-// shareNumbers reports whether two lists of numbers have a place in common, spare capacity included.
-func shareNumbers(a []int64, b []int64) bool {
-	a, b = a[:cap(a)], b[:cap(b)]
-	for i := range a {
-		for k := range b {
-			if &a[i] == &b[k] {
-				return true
-			}
-		}
-	}
-	return false
-}
-
-// shareAnyNumbers reports whether steps of two paths have a place in common.
-func shareAnyNumbers(a path, b path) bool {
 	for _, v := range a[:cap(a)] {
 		for _, w := range b[:cap(b)] {
-			if shareNumbers(v, w) {
+			if shareMemory(v, w) {
 				return true
 			}
 		}
@@ -143,12 +126,12 @@ func TestPathsAreNeitherWrittenNorShared(t *testing.T) {
 			if !samePath(wholeOf(a), beforeA) || !samePath(wholeOf(b), beforeB) {
 				t.Errorf("%s writes into %v or %v", f.name, c.p, b)
 			}
-			if shareSteps(got, a) || shareSteps(got, b) || shareAnyNumbers(got, a) || shareAnyNumbers(got, b) {
+			if shareRows(got, a) || shareRows(got, b) {
 				t.Errorf("%s of %v shares its memory", f.name, c.p)
 			}
 			for i, v := range got {
 				for _, w := range got[:i] {
-					if shareNumbers(v, w) {
+					if shareMemory(v, w) {
 						t.Errorf("steps of %s of %v share memory", f.name, c.p)
 					}
 				}
@@ -166,7 +149,7 @@ func TestResultsOfPathsWithOneStepTwice(t *testing.T) {
 		got := f.call(2, shared, shared[:2])
 		for i, v := range got {
 			for _, w := range got[:i] {
-				if shareNumbers(v, w) {
+				if shareMemory(v, w) {
 					t.Errorf("steps of %s share memory", f.name)
 				}
 			}
@@ -191,7 +174,7 @@ func TestPathsDoNotDependOnCallsBefore(t *testing.T) {
 				}
 			}
 			second := f.call(c.d, c.p, nil)
-			if !samePath(second, want) || shareSteps(first, second) || shareAnyNumbers(first, second) {
+			if !samePath(second, want) || shareRows(first, second) {
 				t.Errorf("%s of %v = %v, and then %v", f.name, c.p, want, second)
 			}
 		}

@@ -145,11 +145,11 @@ func mapMakers(t *testing.T) []mapMaker {
 }
 
 // checkOwnMemory requires that no two lists of a result share memory.
-func checkOwnMemory(t *testing.T, name string, lists [][]int64) {
+func checkOwnMemory[E any](t *testing.T, name string, lists [][]E) {
 	t.Helper()
 	for i, v := range lists {
 		for _, w := range lists[:i] {
-			if shareNumbers(v, w) {
+			if shareMemory(v, w) {
 				t.Errorf("lists of %s share memory", name)
 			}
 		}
@@ -167,7 +167,7 @@ func TestMapsAreNeitherWrittenNorShared(t *testing.T) {
 			if !samePath(wholeOf(rows), before) {
 				t.Errorf("%s writes into %v", f.name, m.rows)
 			}
-			if shareSteps(got, rows) || shareAnyNumbers(got, rows) {
+			if shareRows(got, rows) {
 				t.Errorf("%s of %v shares its memory", f.name, m.rows)
 			}
 			checkOwnMemory(t, f.name, got)
@@ -194,13 +194,18 @@ func TestResultsOfMapsWithOneRowTwice(t *testing.T) {
 
 // changedAfter changes whatever a result reaches, and returns a copy of what it was.
 func changedAfter(lists [][]int64) [][]int64 {
-	var copies [][]int64
-	for _, v := range lists {
-		copies = append(copies, slices.Clone(v))
+	return changedRows(lists, spareNumber)
+}
+
+// changedRows puts spare wherever rows reach, and returns a copy of what they were.
+func changedRows[E any](rows [][]E, spare E) [][]E {
+	var copies [][]E
+	for _, row := range rows {
+		copies = append(copies, slices.Clone(row))
 	}
-	for _, v := range lists {
-		for i := range v[:cap(v)] {
-			v[:cap(v)][i] = spareNumber
+	for _, row := range rows {
+		for i := range row[:cap(row)] {
+			row[:cap(row)][i] = spare
 		}
 	}
 	return copies
@@ -212,7 +217,7 @@ func TestMapsDoNotDependOnCallsBefore(t *testing.T) {
 			first := f.call(m, m.rows)
 			want := changedAfter(first)
 			second := f.call(m, m.rows)
-			if !samePath(second, want) || shareSteps(first, second) || shareAnyNumbers(first, second) {
+			if !samePath(second, want) || shareRows(first, second) {
 				t.Errorf("%s of %v = %v, and then %v", f.name, m.rows, want, second)
 			}
 		}
@@ -225,7 +230,7 @@ func TestDegreesAreNew(t *testing.T) {
 		checkOwnMemory(t, "DegreesOf", first)
 		want := changedAfter(first)
 		second, _ := impl.DegreesOf(pair[0])
-		if code != impl.ErrNone || len(first) == 0 || !samePath(second, want) || shareAnyNumbers(first, second) {
+		if code != impl.ErrNone || len(first) == 0 || !samePath(second, want) || shareRows(first, second) {
 			t.Errorf("DegreesOf %v = %v, and then %v", pair[0], want, second)
 		}
 	}
