@@ -116,8 +116,10 @@ func memoryPaths() []memoryPath {
 	return list
 }
 
-func TestPathsAreNeitherWrittenNorShared(t *testing.T) {
-	makers := pathMakers()
+// checkPathMakers requires of functions of paths that they write into none, and that what they return is
+// memory of its own.
+func checkPathMakers(t *testing.T, makers []pathMaker) {
+	t.Helper()
 	for _, c := range memoryPaths() {
 		for _, f := range makers {
 			a, b := spacious(c.p), spacious(path{flatStep(max(0, min(c.d, 4)), 3)})
@@ -129,15 +131,13 @@ func TestPathsAreNeitherWrittenNorShared(t *testing.T) {
 			if shareRows(got, a) || shareRows(got, b) {
 				t.Errorf("%s of %v shares its memory", f.name, c.p)
 			}
-			for i, v := range got {
-				for _, w := range got[:i] {
-					if shareMemory(v, w) {
-						t.Errorf("steps of %s of %v share memory", f.name, c.p)
-					}
-				}
-			}
+			checkOwnMemory(t, f.name, got)
 		}
 	}
+}
+
+func TestPathsAreNeitherWrittenNorShared(t *testing.T) {
+	checkPathMakers(t, pathMakers())
 }
 
 // A path may have one step at several places. What is made of it must not.
@@ -160,25 +160,24 @@ func TestResultsOfPathsWithOneStepTwice(t *testing.T) {
 	}
 }
 
-func TestPathsDoNotDependOnCallsBefore(t *testing.T) {
+// checkPathsAgain requires of functions of paths that they return the same after a change of what they have
+// returned.
+func checkPathsAgain(t *testing.T, makers []pathMaker) {
+	t.Helper()
 	for _, c := range memoryPaths() {
-		for _, f := range pathMakers() {
+		for _, f := range makers {
 			first := f.call(c.d, c.p, nil)
-			var want path
-			for _, step := range first {
-				want = append(want, slices.Clone(step))
-			}
-			for _, step := range first {
-				for i := range step[:cap(step)] {
-					step[:cap(step)][i] = spareNumber
-				}
-			}
+			want := changedAfter(first)
 			second := f.call(c.d, c.p, nil)
 			if !samePath(second, want) || shareRows(first, second) {
 				t.Errorf("%s of %v = %v, and then %v", f.name, c.p, want, second)
 			}
 		}
 	}
+}
+
+func TestPathsDoNotDependOnCallsBefore(t *testing.T) {
+	checkPathsAgain(t, pathMakers())
 }
 
 func TestSignaturesDoNotDependOnCallsBefore(t *testing.T) {

@@ -177,6 +177,19 @@ func TestParsedGroupWordsAreNew(t *testing.T) {
 	}
 }
 
+// checkNothingLeft requires that no more goroutines are there than before some calls.
+func checkNothingLeft(t *testing.T, before int) {
+	t.Helper()
+	// What has ended may still be counted for a moment.
+	for range 100000 {
+		if runtime.NumGoroutine() <= before {
+			return
+		}
+		runtime.Gosched()
+	}
+	t.Errorf("%d goroutines are left, after %d before", runtime.NumGoroutine(), before)
+}
+
 // A search has come to its end when its result is there, whether a word was found first, last, or not at
 // all.
 func TestSearchesLeaveNothingBehind(t *testing.T) {
@@ -192,12 +205,5 @@ func TestSearchesLeaveNothingBehind(t *testing.T) {
 			impl.WordOfSignature(x)
 		}
 	}
-	// What has ended may still be counted for a moment.
-	for range 100000 {
-		if runtime.NumGoroutine() <= before {
-			return
-		}
-		runtime.Gosched()
-	}
-	t.Errorf("%d goroutines are left, after %d before", runtime.NumGoroutine(), before)
+	checkNothingLeft(t, before)
 }
